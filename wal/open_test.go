@@ -305,3 +305,53 @@ func TestP10_1Elsewhere(t *testing.T) {
 	asks(t, "one far behind", without("", map[string][]byte{"log.99999999": segment(99999999, "x")}), files, 5, slices.Concat(lists()...)...)
 	asks(t, "one far ahead", without("", map[string][]byte{"log.00000001": segment(1, "x")}), map[string][]byte{"log.00000001": segment(1, "x")}, 1, "x")
 }
+
+// TestP10_1Zero is a segment that begins with the number 0, alone and ahead of right ones: it is Removed with all behind it, whatever is in it.
+func TestP10_1Zero(t *testing.T) {
+	others := map[string][]byte{"log.0000000": nil, "log.000000000": segment(0, "x"), "lpg.00000000": segment(1, "x"), "log.0000000~": row(20, 50), "log00000000": {1}}
+	for _, b := range [][]byte{nil, {0}, []byte("x"), row(40, 51), segment(0, "x"), segment(0, "", "one", "two"), segment(1, "x", "y"), segment(0, strings.Repeat("x", 1100)), segment(0, "x")[:5]} {
+		alone := maps.Clone(others)
+		alone["log.00000000"] = b
+		asks(t, "0 alone", alone, others, 1)
+		for _, first := range []int{1, 2, 5, 99999900} {
+			files := three(first)
+			maps.Copy(files, alone)
+			asks(t, "0 ahead", files, others, 1)
+		}
+		more := maps.Clone(alone)
+		maps.Copy(more, map[string][]byte{"log.00000001": nil, "log.00000002": row(20, 52), "log.99999999": segment(99999999, "x")})
+		asks(t, "0 ahead of wrong ones", more, others, 1)
+	}
+}
+
+// TestP10_1ZeroOther is a segment that begins with the number 0 of a log of another prefix: it is no file of this one.
+func TestP10_1ZeroOther(t *testing.T) {
+	for _, other := range prefixes() {
+		if other == "log" {
+			continue
+		}
+		files := three(1)
+		files[named(other, 0)] = segment(0, "x", "y")
+		asks(t, other, files, files, 1, slices.Concat(lists()...)...)
+	}
+}
+
+// TestP10_1ZeroLater is a segment that begins with the number 0 and comes while the log is open: the log goes on, and the next Open Removes all.
+func TestP10_1ZeroLater(t *testing.T) {
+	x := begun(t, 1<<16, "log")
+	x.filled(4, 600)
+	lay(t, x.d, x.m, "log.00000000", segment(0, "x"), 3)
+	lay(t, x.d, x.m, "log", row(10, 53), 3)
+	x.laid([]byte("more"))
+	x.sync()
+	is(t, "Cut", x.cut(2), api.OK)
+	is(t, "Drop", x.drop(2), api.OK)
+	x.files("log", "log.00000000")
+	x.laid([]byte("two"))
+	x.files("log", "log.00000000", "log.00000002")
+	x.crash(3)
+	x.files("log")
+	x.bounds(1, 1)
+	x.laid([]byte("one"))
+	x.files("log", "log.00000001")
+}

@@ -101,7 +101,7 @@ func opened(m *paper, prefix string) *book {
 
 // takes reads a file as far as it is right, and cuts it there; it tells whether all of it is right.
 func (w *book) takes(n int) bool {
-	if len(w.files) > 0 && n != w.next {
+	if n == 0 || len(w.files) > 0 && n != w.next {
 		return false
 	}
 	b := w.m.files[w.name(n)].b
@@ -131,7 +131,7 @@ func numbersOf(m *paper, prefix string) []int {
 			continue
 		}
 		n, e := strconv.ParseInt(name[len(name)-8:], 10, 64)
-		if e == nil && n >= 1 && name == named(prefix, int(n)) {
+		if e == nil && n >= 0 && name == named(prefix, int(n)) {
 			l = append(l, int(n))
 		}
 	}
