@@ -143,6 +143,9 @@ func (x *pair) spoil(draws *drawn) {
 		is(x.t, "Cut", x.d.Cut(name, n), api.OK)
 		x.m.cut(name, n)
 	case 2:
+		if len(s.b) == 0 {
+			return
+		}
 		at := draws.below(len(s.b))
 		by := byte(1 + draws.below(255))
 		is(x.t, "Rot", x.d.Rot(name, at, by), api.OK)

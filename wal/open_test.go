@@ -108,7 +108,7 @@ func three(first int) map[string][]byte {
 	return files
 }
 
-// spoilt asks for an Open where of the k-th of three segments another file stands, of which the first entries are right and end at a byte: it is Cut there or Removed, and those behind it are.
+// spoilt asks for an Open where of the k-th of three segments another file stands, of which so many entries from the first one on are right: it is Cut behind them, or Removed, and those behind it are. One without a byte is neither.
 func spoilt(t *testing.T, name string, first, k int, b []byte, right int) {
 	t.Helper()
 	firsts := firstsOf(first, lists())
@@ -124,7 +124,9 @@ func spoilt(t *testing.T, name string, first, k int, b []byte, right int) {
 		left[named("log", firsts[k])] = segment(firsts[k], good...)
 		entries = append(entries, good...)
 	}
-	if len(entries) == 0 {
+	if len(b) == 0 {
+		left[named("log", firsts[k])] = nil
+	} else if len(entries) == 0 {
 		first = 1
 	}
 	asks(t, name, files, left, first, entries...)
@@ -187,19 +189,6 @@ func TestP10_1Rot(t *testing.T) {
 			}
 		}
 	}
-}
-
-// TestP10_1Empty is segments that have no byte: there is no entry with which they begin.
-func TestP10_1Empty(t *testing.T) {
-	for _, first := range []int{1, 2, 126, 99999900} {
-		for k := range 3 {
-			spoilt(t, "empty", first, k, nil, 0)
-		}
-	}
-	for _, n := range []int{1, 2, 7, 99999999} {
-		asks(t, "empty", map[string][]byte{named("log", n): nil}, nil, 1)
-	}
-	asks(t, "empty ones", map[string][]byte{"log.00000001": nil, "log.00000002": nil, "log.00000003": segment(3, "three")}, nil, 1)
 }
 
 // TestP10_1More is segments with bytes behind their records that are no record, or one cut short.

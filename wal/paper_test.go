@@ -105,6 +105,9 @@ func (w *book) takes(n int) bool {
 		return false
 	}
 	b := w.m.files[w.name(n)].b
+	if len(b) == 0 {
+		w.next = n
+	}
 	at := 0
 	for i := n; ; i++ {
 		p, size := entryOf(b[at:], i)
@@ -115,12 +118,12 @@ func (w *book) takes(n int) bool {
 		w.entries[i] = p
 		w.next = i + 1
 	}
-	if at > 0 {
+	if at > 0 || len(b) == 0 {
 		w.m.cut(w.name(n), at)
 		w.files = append(w.files, n)
 		w.fresh[n] = true
 	}
-	return at > 0 && at == len(b)
+	return at == len(b)
 }
 
 // numbersOf are the first numbers of the files that are a log's by their names, rising.
@@ -178,7 +181,7 @@ func (w *book) append(p []byte) (int, api.Errno) {
 	if e := w.m.add(w.name(into), laid(w.next, p)); e != api.OK {
 		return 0, e
 	}
-	if into == w.next {
+	if !slices.Contains(w.files, into) {
 		w.files = append(w.files, into)
 	}
 	w.entries[w.next] = bytes.Clone(p)
